@@ -80,6 +80,15 @@ func (g Glue) plus(h Glue) Glue {
 	}
 }
 
+// minus returns the differences of the lengths, which need not be valid.
+func (g Glue) minus(h Glue) Glue {
+	return Glue{
+		Width:   g.Width - h.Width,
+		Stretch: g.Stretch - h.Stretch,
+		Shrink:  g.Shrink - h.Shrink,
+	}
+}
+
 // badnessOf is Badness for every need up to twice MaxLength: glue with a
 // negative Width may lack more than MaxLength, which Badness rejects.
 func badnessOf(need int, have int) int {

@@ -43,25 +43,16 @@ func HyphenValues(patterns []string, word string) []int {
 	if !ok || !validWord(word) {
 		return nil
 	}
-	text := "." + word + "."
-	places := make([]int, len(text)+1)
-	for start := range len(text) {
-		trie.apply(text[start:], places[start:])
-	}
-	// Place i is before character i of the text, and its first letter is character 1.
-	return slices.Clone(places[2 : len(word)+1])
+	return trie.valuesOf(word)
 }
 
 // HyphenPoints returns the places at which a word may be divided.
 func HyphenPoints(patterns []string, word string) []int {
-	var points []int
-	for i, value := range HyphenValues(patterns, word) {
-		before := i + 1
-		if value%2 == 1 && before >= LeftMin && len(word)-before >= RightMin {
-			points = append(points, before)
-		}
+	trie, ok := trieOf(patterns)
+	if !ok || !validWord(word) {
+		return nil
 	}
-	return points
+	return trie.pointsOf(word)
 }
 
 // SplitWord returns the parts of a word.
@@ -138,6 +129,29 @@ func (t *patternTrie) apply(text string, places []int) {
 		}
 		raise(places, t.nodes[at].values)
 	}
+}
+
+// valuesOf returns the values between the letters of a valid word.
+func (t *patternTrie) valuesOf(word string) []int {
+	text := "." + word + "."
+	places := make([]int, len(text)+1)
+	for start := range len(text) {
+		t.apply(text[start:], places[start:])
+	}
+	// Place i is before character i of the text, and its first letter is character 1.
+	return slices.Clone(places[2 : len(word)+1])
+}
+
+// pointsOf returns the places at which a valid word may be divided.
+func (t *patternTrie) pointsOf(word string) []int {
+	var points []int
+	for i, value := range t.valuesOf(word) {
+		before := i + 1
+		if value%2 == 1 && before >= LeftMin && len(word)-before >= RightMin {
+			points = append(points, before)
+		}
+	}
+	return points
 }
 
 // slotOf numbers the characters of patterns.
