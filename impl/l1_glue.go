@@ -105,3 +105,13 @@ func badnessOf(need int, have int) int {
 func within(n int, low int, high int) bool {
 	return low <= n && n <= high
 }
+
+// allWithin reports whether all numbers are in low..high.
+func allWithin(list []int, low int, high int) bool {
+	for _, n := range list {
+		if !within(n, low, high) {
+			return false
+		}
+	}
+	return true
+}

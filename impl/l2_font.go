@@ -27,15 +27,8 @@ type Font struct {
 
 // ValidFont reports whether a font is valid.
 func ValidFont(f Font) bool {
-	if len(f.Widths) != Glyphs {
-		return false
-	}
-	for _, width := range f.Widths {
-		if !within(width, 0, MaxGlyph) {
-			return false
-		}
-	}
-	return within(f.Hyphen, 0, MaxGlyph) &&
+	return len(f.Widths) == Glyphs && allWithin(f.Widths, 0, MaxGlyph) &&
+		within(f.Hyphen, 0, MaxGlyph) &&
 		f.Space.valid() && f.Space.Width >= 0 &&
 		validPairs(f.Kerns, -MaxGlyph, MaxGlyph) &&
 		validPairs(f.Ligatures, Letters, Glyphs-1)
